@@ -1,0 +1,1 @@
+"""Short floating numbers in pairs: bfloat16 and half, made singles."""
