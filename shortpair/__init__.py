@@ -1,1 +1,1 @@
-"""Short floating numbers in pairs: bfloat16 and half, made singles."""
+"""Short floating numbers in pairs: bfloat16 and half, made singles, and singles made short."""

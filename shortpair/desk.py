@@ -1,6 +1,8 @@
 """The calls of the package."""
 
-from shortpair.widen import is_known_kind, short_to_single
+from shortpair.forms import is_known_kind
+from shortpair.narrow import single_to_short
+from shortpair.widen import short_to_single
 
 
 def every_other_single(kind, p, first):
@@ -15,3 +17,15 @@ def sn_even(kind, p):
 
 def sn_odd(kind, p):
     return every_other_single(kind, p, 1)
+
+
+def sn_one(kind, p):
+    if not is_known_kind(kind):
+        return [0] * 8
+    return [short_to_single(kind, p[0])] * 8
+
+
+def sn_short(kind, x):
+    if not is_known_kind(kind):
+        return [0] * 8
+    return [single_to_short(kind, single) for single in x]

@@ -1,97 +1,9 @@
 """sn_even and sn_odd: points 1 and 3 of the document."""
 
-import struct
 import unittest
 
+from helper import BFLOAT, EDGE_BFLOATS, EDGE_HALVES, HALF, ORDINARY_BFLOATS, ORDINARY_HALVES, Unchanging, wanted_of_half
 from shortpair.desk import sn_even, sn_odd
-
-BFLOAT = 0
-HALF = 1
-
-# (the half's bits, the single's bits)
-ORDINARY_HALVES = [
-    (0x3C00, 0x3F800000),  # 1
-    (0xBC00, 0xBF800000),  # -1
-    (0x3C01, 0x3F802000),  # the next above 1
-    (0xC000, 0xC0000000),  # -2
-    (0x3800, 0x3F000000),  # 0.5
-    (0x3555, 0x3EAAA000),  # near a third
-    (0x4248, 0x40490000),  # 3.140625
-    (0xD640, 0xC2C80000),  # -100
-    (0x6400, 0x44800000),  # 1024
-    (0x2E66, 0x3DCCC000),  # near 0.1
-    (0x77FF, 0x46FFE000),
-    (0xF800, 0xC7000000),  # -32768
-    (0x0800, 0x39000000),
-    (0x9234, 0xBA468000),
-    (0x5BFF, 0x437FE000),
-    (0x4900, 0x41200000),  # 10
-]
-
-EDGE_HALVES = {
-    "zero": (0x0000, 0x00000000),
-    "zero below": (0x8000, 0x80000000),
-    "smallest small": (0x0001, 0x33800000),
-    "smallest small below": (0x8001, 0xB3800000),
-    "second small": (0x0002, 0x34000000),
-    "third small": (0x0003, 0x34400000),
-    "small with nine bits": (0x01FF, 0x37FF8000),
-    "small with the first bit alone": (0x0200, 0x38000000),
-    "greatest small": (0x03FF, 0x387FC000),
-    "greatest small below": (0x83FF, 0xB87FC000),
-    "smallest ordinary": (0x0400, 0x38800000),
-    "smallest ordinary below": (0x8400, 0xB8800000),
-    "greatest ordinary": (0x7BFF, 0x477FE000),
-    "greatest ordinary below": (0xFBFF, 0xC77FE000),
-    "infinity": (0x7C00, 0x7F800000),
-    "infinity below": (0xFC00, 0xFF800000),
-    "no number, first bit not set": (31745, 0x7FC02000),
-    "no number below, first bit not set": (64513, 0xFFC02000),
-    "no number, all but the first bit": (0x7DFF, 0x7FFFE000),
-    "no number below, all but the first bit": (0xFDFF, 0xFFFFE000),
-    "no number, first bit alone": (0x7E00, 0x7FC00000),
-    "no number below, first bit alone": (0xFE00, 0xFFC00000),
-    "no number, first and last bit": (0x7E01, 0x7FC02000),
-    "no number, all bits": (0x7FFF, 0x7FFFE000),
-    "no number below, all bits": (65535, 0xFFFFE000),
-}
-
-ORDINARY_BFLOATS = [
-    (0x3F80, 0x3F800000),  # 1
-    (0xBF80, 0xBF800000),  # -1
-    (0x4000, 0x40000000),  # 2
-    (0x4049, 0x40490000),  # 3.140625
-    (0xC2C8, 0xC2C80000),  # -100
-    (0x3DCD, 0x3DCD0000),
-    (0x0080, 0x00800000),  # the smallest ordinary one
-    (0x7F7F, 0x7F7F0000),  # the greatest
-    (0xFF7F, 0xFF7F0000),
-    (0x1234, 0x12340000),
-    (0xABCD, 0xABCD0000),
-    (0x3C00, 0x3C000000),
-    (0x7BFF, 0x7BFF0000),
-    (0x4248, 0x42480000),
-    (0x5555, 0x55550000),
-    (0xAAAA, 0xAAAA0000),
-]
-
-EDGE_BFLOATS = {
-    "zero": (0x0000, 0x00000000),
-    "zero below": (0x8000, 0x80000000),
-    "smallest small": (0x0001, 0x00010000),
-    "smallest small below": (0x8001, 0x80010000),
-    "greatest small": (0x007F, 0x007F0000),
-    "greatest small below": (0x807F, 0x807F0000),
-    "infinity": (0x7F80, 0x7F800000),
-    "infinity below": (0xFF80, 0xFF800000),
-    "no number, first bit not set": (0x7F81, 0x7F810000),
-    "no number below, first bit not set": (0xFF81, 0xFF810000),
-    "no number, first bit alone": (0x7FC0, 0x7FC00000),
-    "no number below, first bit alone": (0xFFC0, 0xFFC00000),
-    "no number, all bits": (0x7FFF, 0x7FFF0000),
-    "no number below, all bits": (65535, 0xFFFF0000),
-    "a half's infinity": (0x7C00, 0x7C000000),
-}
 
 
 def in_both(kind, p):
@@ -102,33 +14,9 @@ def in_both(kind, p):
     return answer
 
 
-def half_by_struct(short):
-    """The single of a half that is a number or an infinity, by Python's own floats."""
-    value = struct.unpack("<e", struct.pack("<H", short))[0]
-    return struct.unpack("<I", struct.pack("<f", value))[0]
-
-
-def wanted_of_half(short):
-    if short & 0x7FFF > 0x7C00:
-        sign = "1" if short >= 32768 else "0"
-        fraction = format(short % 1024, "010b")
-        return int(sign + "1" * 8 + "1" + fraction[1:] + "0" * 13, 2)
-    return half_by_struct(short)
-
-
 def blocks_of_sixteen():
     for start in range(0, 65536, 16):
         yield list(range(start, start + 16))
-
-
-class Unchanging(list):
-    """A list that refuses every change, also one that would be undone."""
-
-    def refuse(self, *arguments, **keywords):
-        raise AssertionError("the list handed in was changed")
-
-    append = clear = extend = insert = pop = remove = reverse = sort = refuse
-    __setitem__ = __delitem__ = __iadd__ = __imul__ = refuse
 
 
 class Places(unittest.TestCase):

@@ -13,6 +13,14 @@ FOLDER = pathlib.Path(desk.__file__).resolve().parent
 FILES = sorted(FOLDER.glob("*.py"))
 OUTSIDE_NAMES = ("print", "open", "input", "exec", "eval", "compile", "getattr", "globals", "sys", "os")
 
+# Each call's parameters in the document's order, and something to hand in besides kind.
+CALLS = {
+    "sn_even": (["kind", "p"], {"p": [31745] * 16}),
+    "sn_odd": (["kind", "p"], {"p": [31745] * 16}),
+    "sn_one": (["kind", "p"], {"p": [31745]}),
+    "sn_short": (["kind", "x"], {"x": [2139095041] * 8}),
+}
+
 
 def nodes_of(path):
     return list(ast.walk(ast.parse(path.read_text(encoding="utf-8"))))
@@ -20,15 +28,15 @@ def nodes_of(path):
 
 class Interface(unittest.TestCase):
     def test_names_and_arguments(self):
-        for call in (desk.sn_even, desk.sn_odd):
-            self.assertEqual(list(inspect.signature(call).parameters), ["kind", "p"])
+        for name, (parameters, arguments) in CALLS.items():
+            self.assertEqual(list(inspect.signature(getattr(desk, name)).parameters), parameters, name)
 
     def test_nothing_is_printed(self):
         out = io.StringIO()
         with contextlib.redirect_stdout(out), contextlib.redirect_stderr(out):
-            for kind in (0, 1, 2):
-                desk.sn_even(kind, [31745] * 16)
-                desk.sn_odd(kind, [31745] * 16)
+            for name, (parameters, arguments) in CALLS.items():
+                for kind in (0, 1, 2):
+                    getattr(desk, name)(**{**arguments, "kind": kind})
         self.assertEqual(out.getvalue(), "")
 
 
