@@ -4,6 +4,14 @@ from shortpair.forms import is_known_kind
 from shortpair.narrow import single_to_short
 from shortpair.widen import short_to_single
 
+GREATEST_COUNT = 4096
+DONE = 0
+REFUSED = -2
+
+
+def is_refused(n, kind):
+    return n > GREATEST_COUNT or not is_known_kind(kind)
+
 
 def every_other_single(kind, p, first):
     if not is_known_kind(kind):
@@ -29,3 +37,15 @@ def sn_short(kind, x):
     if not is_known_kind(kind):
         return [0] * 8
     return [single_to_short(kind, single) for single in x]
+
+
+def sn_wide(kind, a):
+    if is_refused(len(a), kind):
+        return [REFUSED]
+    return [DONE] + [short_to_single(kind, short) for short in a]
+
+
+def sn_narrow(kind, a):
+    if is_refused(len(a), kind):
+        return [REFUSED]
+    return [DONE] + [single_to_short(kind, single) for single in a]

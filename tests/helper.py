@@ -4,6 +4,8 @@ import struct
 
 BFLOAT = 0
 HALF = 1
+KINDS = (BFLOAT, HALF)
+OTHER_KINDS = (-1, 2, 3, -2, 256, 65536, 2147483647, -2147483648)
 
 # (the half's bits, the single's bits)
 ORDINARY_HALVES = [

@@ -2,7 +2,8 @@
 
 import unittest
 
-from helper import BFLOAT, EDGE_BFLOATS, EDGE_HALVES, HALF, ORDINARY_BFLOATS, ORDINARY_HALVES, Unchanging, wanted_of_half
+from helper import BFLOAT, EDGE_BFLOATS, EDGE_HALVES, HALF, ORDINARY_BFLOATS, ORDINARY_HALVES, OTHER_KINDS
+from helper import Unchanging, wanted_of_half
 from shortpair.desk import sn_even, sn_odd
 
 
@@ -83,7 +84,7 @@ class EveryShortNumber(unittest.TestCase):
 class OtherKinds(unittest.TestCase):
     def test_eight_zeros(self):
         rows = ([0x3C00] * 16, [65535] * 16, [0x8000] * 16, list(range(1, 17)))
-        for kind in (-1, 2, 3, -2, 256, 65536, 2147483647, -2147483648):
+        for kind in OTHER_KINDS:
             for p in rows:
                 with self.subTest(kind=kind, p=p):
                     self.assertEqual(sn_even(kind, p), [0] * 8)

@@ -2,12 +2,10 @@
 
 import unittest
 
-from helper import BFLOAT, EDGE_BFLOATS, EDGE_HALVES, HALF, NARROW_BFLOATS, NARROW_HALVES, Unchanging
-from helper import around_every_middle, narrow_edges, spread_singles, wanted_short, wanted_single, wide_edges
+from helper import BFLOAT, EDGE_BFLOATS, EDGE_HALVES, HALF, KINDS, NARROW_BFLOATS, NARROW_HALVES, OTHER_KINDS
+from helper import Unchanging, around_every_middle, narrow_edges, spread_singles
+from helper import wanted_short, wanted_single, wide_edges
 from shortpair.desk import sn_one, sn_short
-
-KINDS = (BFLOAT, HALF)
-OTHER_KINDS = (-1, 2, 3, -2, 256, 65536, 2147483647, -2147483648)
 
 
 def made_short(kind, singles):
